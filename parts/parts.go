@@ -1,4 +1,4 @@
-// Package parts lays texts in a disk's sectors: a text is cut into parts, each of which has a sector. The layers 9 and 10 stand on it; what a part's sector is closed of stands in shared/doc/09-kept.md and shared/doc/10-log.md, which differ but in how many numbers it begins with.
+// Package parts lays texts in a disk's sectors: a text is cut into parts, each of which has a sector. The layers 9, 10 and 17 stand on it; what a part's sector is closed of stands in shared/doc/09-kept.md and shared/doc/10-log.md, which differ but in how many numbers it begins with.
 package parts
 
 import (
